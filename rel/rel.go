@@ -1,0 +1,169 @@
+// Package rel has relations between few things.
+package rel
+
+import (
+	"iter"
+	"math/bits"
+
+	"quietwing/api"
+)
+
+// Check tells what is wrong with a relation.
+func Check(r []int) error {
+	if len(r) > api.MaxThings {
+		return api.ErrFull
+	}
+	for _, row := range r {
+		if row < 0 || row >= 1<<len(r) {
+			return api.ErrRange
+		}
+	}
+	return nil
+}
+
+// Closure of a relation.
+func Closure(r []int) ([]int, error) {
+	if err := Check(r); err != nil {
+		return nil, err
+	}
+	return closure(r), nil
+}
+
+// Order tells whether no two things are come to from each other.
+func Order(r []int) (bool, error) {
+	if err := Check(r); err != nil {
+		return false, err
+	}
+	return isOrder(closure(r)), nil
+}
+
+// Reduce an order to its steps.
+func Reduce(r []int) ([]int, error) {
+	if err := Check(r); err != nil {
+		return nil, err
+	}
+	c := closure(r)
+	if !isOrder(c) {
+		return nil, api.ErrClash
+	}
+	others := withoutSelf(c)
+	out := make([]int, len(r))
+	for i, set := range others {
+		// In an order nothing leads back, so a thing that another one of the set comes to is come to over that one.
+		out[i] = set &^ step(others, set)
+	}
+	return out, nil
+}
+
+// Way from a thing to another one, the shortest.
+func Way(r []int, a, b int) ([]int, error) {
+	if err := Check(r); err != nil {
+		return nil, err
+	}
+	if !isThing(r, a) || !isThing(r, b) {
+		return nil, api.ErrRange
+	}
+	nearer, ok := layers(r, a, b)
+	if !ok {
+		return nil, api.ErrNone
+	}
+	way := []int{a}
+	at := a
+	for k := len(nearer) - 1; k >= 0; k-- {
+		// Any thing of the next layer keeps the way shortest, so the least one makes it the first.
+		at = least(r[at] & nearer[k])
+		way = append(way, at)
+	}
+	return way, nil
+}
+
+// things of a set, rising.
+func things(set int) iter.Seq[int] {
+	return func(yield func(int) bool) {
+		for left := set; left != 0; left &= left - 1 {
+			if !yield(least(left)) {
+				return
+			}
+		}
+	}
+}
+
+// least thing of a set that is not empty.
+func least(set int) int { return bits.TrailingZeros64(uint64(set)) }
+
+func has(set, i int) bool { return set>>i&1 == 1 }
+
+func isThing(r []int, i int) bool { return i >= 0 && i < len(r) }
+
+// step gives all to which some thing of a set leads.
+func step(r []int, set int) int {
+	to := 0
+	for i := range things(set) {
+		to |= r[i]
+	}
+	return to
+}
+
+// closure of a relation that was checked.
+func closure(r []int) []int {
+	out := make([]int, len(r))
+	for i := range r {
+		out[i] = spread(r, i)
+	}
+	return out
+}
+
+// spread gives all that are come to from a thing, and the thing itself.
+func spread(r []int, from int) int {
+	found := 0
+	for fresh := 1 << from; fresh != 0; fresh = step(r, fresh) &^ found {
+		found |= fresh
+	}
+	return found
+}
+
+// isOrder asks it of a closure.
+func isOrder(c []int) bool {
+	for i, set := range withoutSelf(c) {
+		for k := range things(set) {
+			if has(c[k], i) {
+				return false
+			}
+		}
+	}
+	return true
+}
+
+func withoutSelf(r []int) []int {
+	out := make([]int, len(r))
+	for i, set := range r {
+		out[i] = set &^ (1 << i)
+	}
+	return out
+}
+
+// turned leads from each thing to those that led to it.
+func turned(r []int) []int {
+	out := make([]int, len(r))
+	for i, set := range r {
+		for k := range things(set) {
+			out[k] |= 1 << i
+		}
+	}
+	return out
+}
+
+// layers gives the things that are 0, 1, 2 and so on steps ahead of b, as far as they are nearer to it than a; false if b is not come to from a.
+func layers(r []int, a, b int) ([]int, bool) {
+	back := turned(r)
+	var out []int
+	seen := 0
+	for layer := 1 << b; layer != 0; layer = step(back, layer) &^ seen {
+		if has(layer, a) {
+			return out, true
+		}
+		seen |= layer
+		out = append(out, layer)
+	}
+	return nil, false
+}

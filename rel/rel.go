@@ -60,7 +60,7 @@ func Way(r []int, a, b int) ([]int, error) {
 	if err := Check(r); err != nil {
 		return nil, err
 	}
-	if !isThing(r, a) || !isThing(r, b) {
+	if !IsThing(r, a) || !IsThing(r, b) {
 		return nil, api.ErrRange
 	}
 	nearer, ok := layers(r, a, b)
@@ -77,8 +77,8 @@ func Way(r []int, a, b int) ([]int, error) {
 	return way, nil
 }
 
-// things of a set, rising.
-func things(set int) iter.Seq[int] {
+// Things of a set, rising.
+func Things(set int) iter.Seq[int] {
 	return func(yield func(int) bool) {
 		for left := set; left != 0; left &= left - 1 {
 			if !yield(least(left)) {
@@ -93,12 +93,13 @@ func least(set int) int { return bits.TrailingZeros64(uint64(set)) }
 
 func has(set, i int) bool { return set>>i&1 == 1 }
 
-func isThing(r []int, i int) bool { return i >= 0 && i < len(r) }
+// IsThing tells whether a relation has a row for i.
+func IsThing(r []int, i int) bool { return i >= 0 && i < len(r) }
 
 // step gives all to which some thing of a set leads.
 func step(r []int, set int) int {
 	to := 0
-	for i := range things(set) {
+	for i := range Things(set) {
 		to |= r[i]
 	}
 	return to
@@ -125,7 +126,7 @@ func spread(r []int, from int) int {
 // isOrder asks it of a closure.
 func isOrder(c []int) bool {
 	for i, set := range withoutSelf(c) {
-		for k := range things(set) {
+		for k := range Things(set) {
 			if has(c[k], i) {
 				return false
 			}
@@ -142,12 +143,14 @@ func withoutSelf(r []int) []int {
 	return out
 }
 
-// turned leads from each thing to those that led to it.
-func turned(r []int) []int {
+// Turned leads from each thing to those that led to it.
+func Turned(r []int) []int {
 	out := make([]int, len(r))
-	for i, set := range r {
-		for k := range things(set) {
-			out[k] |= 1 << i
+	for k := range out {
+		for i, set := range r {
+			if has(set, k) {
+				out[k] |= 1 << i
+			}
 		}
 	}
 	return out
@@ -155,7 +158,7 @@ func turned(r []int) []int {
 
 // layers gives the things that are 0, 1, 2 and so on steps ahead of b, as far as they are nearer to it than a; false if b is not come to from a.
 func layers(r []int, a, b int) ([]int, bool) {
-	back := turned(r)
+	back := Turned(r)
 	var out []int
 	seen := 0
 	for layer := 1 << b; layer != 0; layer = step(back, layer) &^ seen {

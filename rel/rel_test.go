@@ -169,17 +169,39 @@ func TestWay(t *testing.T) {
 
 func TestThings(t *testing.T) {
 	var got []int
-	for i := range things(1 | 8 | 2048) {
+	for i := range Things(1 | 8 | 2048) {
 		got = append(got, i)
 	}
 	if !slices.Equal(got, []int{0, 3, 11}) {
 		t.Errorf("got %v", got)
 	}
-	for i := range things(6) {
+	for i := range Things(6) {
 		if i != 1 {
 			t.Errorf("went on with %d behind a break", i)
 		}
 		break
+	}
+}
+
+func TestTurned(t *testing.T) {
+	for _, c := range []struct{ r, want []int }{
+		{nil, nil},
+		{[]int{1}, []int{1}},
+		{[]int{6, 4, 0}, []int{0, 1, 3}},
+		{[]int{2, 4, 1}, []int{4, 1, 2}},
+	} {
+		r := slices.Clone(c.r)
+		if got := Turned(r); !slices.Equal(got, c.want) || !slices.Equal(r, c.r) {
+			t.Errorf("Turned(%v): got %v, want %v; handed in is %v now", c.r, got, c.want, r)
+		}
+	}
+}
+
+func TestIsThing(t *testing.T) {
+	for i, want := range map[int]bool{math.MinInt: false, -1: false, 0: true, 2: true, 3: false, math.MaxInt: false} {
+		if IsThing([]int{0, 0, 0}, i) != want {
+			t.Errorf("IsThing(%d): want %v", i, want)
+		}
 	}
 }
 

@@ -117,7 +117,7 @@ func play(t *testing.T, users, files []api.Label, asks []api.Ask) (counts [9]int
 	return counts
 }
 
-// TestAllShort: all runs of four asks of a user at two files, whatever the three labels of a few are.
+// TestAllShort: all runs of four asks of a user at two files, the three labels being any of two levels and one letter.
 func TestAllShort(t *testing.T) {
 	some := []api.Label{{}, {Level: 1}, {Set: 1}, {Level: 1, Set: 1}}
 	var asks []api.Ask
@@ -126,13 +126,15 @@ func TestAllShort(t *testing.T) {
 			asks = append(asks, api.Ask{Kind: kind, File: file, To: 1 - file})
 		}
 	}
+	asks = append(asks, api.Ask{Kind: api.Copy}, api.Ask{Kind: api.Copy, File: 1, To: 1})
 	for labels := range 64 {
 		user := some[labels%4]
 		files := []api.Label{some[labels/4%4], some[labels/16]}
-		for run := range 1 << 12 {
+		for run := range 10_000 {
 			list := make([]api.Ask, 4)
 			for i := range list {
-				list[i] = asks[run>>(3*i)&7]
+				list[i] = asks[run%10]
+				run /= 10
 			}
 			play(t, []api.Label{user}, files, list)
 		}

@@ -63,9 +63,18 @@ func Way(r []int, a, b int) ([]int, error) {
 	if !IsThing(r, a) || !IsThing(r, b) {
 		return nil, api.ErrRange
 	}
-	nearer, ok := layers(r, a, b)
-	if !ok {
+	way := WayInto(r, a, 1<<b)
+	if way == nil {
 		return nil, api.ErrNone
+	}
+	return way, nil
+}
+
+// WayInto a set from a thing: the shortest, of several the one with the least thing where they differ first; nil, if there is none. It does not ask for Check: other layers have relations of more things.
+func WayInto(r []int, a, set int) []int {
+	nearer, ok := layers(r, a, set)
+	if !ok {
+		return nil
 	}
 	way := []int{a}
 	at := a
@@ -74,7 +83,7 @@ func Way(r []int, a, b int) ([]int, error) {
 		at = least(r[at] & nearer[k])
 		way = append(way, at)
 	}
-	return way, nil
+	return way
 }
 
 // Things of a set, rising.
@@ -156,12 +165,12 @@ func Turned(r []int) []int {
 	return out
 }
 
-// layers gives the things that are 0, 1, 2 and so on steps ahead of b, as far as they are nearer to it than a; false if b is not come to from a.
-func layers(r []int, a, b int) ([]int, bool) {
+// layers gives the things that are 0, 1, 2 and so on steps ahead of a set, as far as they are nearer to it than a; false if it is not come to from a.
+func layers(r []int, a, set int) ([]int, bool) {
 	back := Turned(r)
 	var out []int
 	seen := 0
-	for layer := 1 << b; layer != 0; layer = step(back, layer) &^ seen {
+	for layer := set; layer != 0; layer = step(back, layer) &^ seen {
 		if has(layer, a) {
 			return out, true
 		}

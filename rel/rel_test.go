@@ -351,3 +351,31 @@ func TestSomeGreat(t *testing.T) {
 		holdAgainst(t, r)
 	}
 }
+
+// TestWayInto: the nearest of a set, the least one where several are as near, and also among more things than Check lets through.
+func TestWayInto(t *testing.T) {
+	long := make([]int, 20)
+	for i := range 19 {
+		long[i] = 1 << (i + 1)
+	}
+	long[0] |= 1 << 10
+	for _, c := range []struct {
+		name   string
+		r      []int
+		a, set int
+		want   []int
+	}{
+		{"into nothing", []int{2, 1}, 0, 0, nil},
+		{"it is in it", []int{2, 1}, 0, 3, []int{0}},
+		{"nothing leads there", []int{0, 1}, 0, 2, nil},
+		{"the least of two", []int{6, 0, 0}, 0, 6, []int{0, 1}},
+		{"the nearer one", []int{2, 4, 8, 0}, 0, 12, []int{0, 1, 2}},
+		{"the nearer one is the greater", []int{10, 4, 0, 0}, 0, 12, []int{0, 3}},
+		{"many things", long, 0, 1<<13 | 1<<5, []int{0, 10, 11, 12, 13}},
+		{"many things, the last", long, 16, 1 << 19, []int{16, 17, 18, 19}},
+	} {
+		if got := WayInto(c.r, c.a, c.set); !slices.Equal(got, c.want) {
+			t.Errorf("%s: got %v, want %v", c.name, got, c.want)
+		}
+	}
+}

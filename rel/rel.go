@@ -14,7 +14,7 @@ func Check(r []int) error {
 		return api.ErrFull
 	}
 	for _, row := range r {
-		if row < 0 || row >= 1<<len(r) {
+		if !IsSet(row, len(r)) {
 			return api.ErrRange
 		}
 	}
@@ -37,20 +37,29 @@ func Order(r []int) (bool, error) {
 	return isOrder(closure(r)), nil
 }
 
-// Reduce an order to its steps.
-func Reduce(r []int) ([]int, error) {
-	if err := Check(r); err != nil {
+// OrderClosure is the Closure of an order; ErrClash, if it is none.
+func OrderClosure(r []int) ([]int, error) {
+	c, err := Closure(r)
+	if err != nil {
 		return nil, err
 	}
-	c := closure(r)
 	if !isOrder(c) {
 		return nil, api.ErrClash
+	}
+	return c, nil
+}
+
+// Reduce an order to its steps.
+func Reduce(r []int) ([]int, error) {
+	c, err := OrderClosure(r)
+	if err != nil {
+		return nil, err
 	}
 	others := withoutSelf(c)
 	out := make([]int, len(r))
 	for i, set := range others {
 		// In an order nothing leads back, so a thing that another one of the set comes to is come to over that one.
-		out[i] = set &^ step(others, set)
+		out[i] = set &^ Step(others, set)
 	}
 	return out, nil
 }
@@ -105,8 +114,11 @@ func has(set, i int) bool { return set>>i&1 == 1 }
 // IsThing tells whether a relation has a row for i.
 func IsThing(r []int, i int) bool { return i >= 0 && i < len(r) }
 
-// step gives all to which some thing of a set leads.
-func step(r []int, set int) int {
+// IsSet tells whether a number is a set of so many things.
+func IsSet(set, things int) bool { return set >= 0 && set < 1<<things }
+
+// Step gives all to which some thing of a set leads. It does not ask for Check: rows may be sets of other things.
+func Step(r []int, set int) int {
 	to := 0
 	for i := range Things(set) {
 		to |= r[i]
@@ -126,7 +138,7 @@ func closure(r []int) []int {
 // spread gives all that are come to from a thing, and the thing itself.
 func spread(r []int, from int) int {
 	found := 0
-	for fresh := 1 << from; fresh != 0; fresh = step(r, fresh) &^ found {
+	for fresh := 1 << from; fresh != 0; fresh = Step(r, fresh) &^ found {
 		found |= fresh
 	}
 	return found
@@ -170,7 +182,7 @@ func layers(r []int, a, set int) ([]int, bool) {
 	back := Turned(r)
 	var out []int
 	seen := 0
-	for layer := set; layer != 0; layer = step(back, layer) &^ seen {
+	for layer := set; layer != 0; layer = Step(back, layer) &^ seen {
 		if has(layer, a) {
 			return out, true
 		}

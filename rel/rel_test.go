@@ -108,6 +108,33 @@ func TestOrder(t *testing.T) {
 	}
 }
 
+// TestOrderClosure: on all relations of up to three things it is the Closure, but where Order says no.
+func TestOrderClosure(t *testing.T) {
+	for _, c := range wrong {
+		all, err := OrderClosure(c.r)
+		told(t, c.name, err, c.want)
+		if all != nil {
+			t.Errorf("%s: answered %v", c.name, all)
+		}
+	}
+	for n := range 4 {
+		for all := range 1 << (n * n) {
+			r := make([]int, n)
+			for i := range r {
+				r[i] = all >> (i * n) & (1<<n - 1)
+			}
+			want, _ := Closure(r)
+			code := api.OK
+			if is, _ := Order(r); !is {
+				want, code = nil, api.ErrClash
+			}
+			if got, err := OrderClosure(r); plain.Told(err) != code || !slices.Equal(got, want) {
+				t.Errorf("OrderClosure(%v): got %v, %v, want %v, %v", r, got, err, want, code)
+			}
+		}
+	}
+}
+
 func TestReduce(t *testing.T) {
 	for _, c := range []struct {
 		r, want []int
@@ -205,12 +232,47 @@ func TestIsThing(t *testing.T) {
 	}
 }
 
+func TestIsSet(t *testing.T) {
+	for _, c := range []struct {
+		set, things int
+		want        bool
+	}{
+		{0, 0, true}, {1, 0, false}, {-1, 0, false},
+		{0, 3, true}, {7, 3, true}, {8, 3, false}, {-1, 3, false},
+		{1023, 10, true}, {1024, 10, false},
+		{math.MinInt, 12, false}, {math.MaxInt, 12, false}, {1 << 32, 12, false},
+	} {
+		if got := IsSet(c.set, c.things); got != c.want {
+			t.Errorf("IsSet(%d, %d): got %v", c.set, c.things, got)
+		}
+	}
+}
+
+func TestStep(t *testing.T) {
+	for _, c := range []struct {
+		r         []int
+		set, want int
+	}{
+		{nil, 0, 0},
+		{[]int{6, 8, 8, 0}, 0, 0},
+		{[]int{6, 8, 8, 0}, 1, 6},
+		{[]int{6, 8, 8, 0}, 6, 8}, // one step only, and not the set itself
+		{[]int{6, 8, 8, 0}, 15, 14},
+		{[]int{512, 1}, 3, 513}, // rows may be sets of other things
+	} {
+		if got := Step(c.r, c.set); got != c.want {
+			t.Errorf("Step(%v, %b): got %b, want %b", c.r, c.set, got, c.want)
+		}
+	}
+}
+
 // TestNothingIsShared: what is handed in stays, what lies behind it too, and what comes out is fresh each time.
 func TestNothingIsShared(t *testing.T) {
 	memory := []int{6, 4, 0, -7, -8}
 	r := memory[:3]
 	calls := []func() []int{
 		func() []int { l, _ := Closure(r); return l },
+		func() []int { l, _ := OrderClosure(r); return l },
 		func() []int { l, _ := Reduce(r); return l },
 		func() []int { l, _ := Way(r, 0, 2); return l },
 		func() []int { is, _ := Order(r); return []int{map[bool]int{true: 1}[is]} },

@@ -213,6 +213,24 @@ func TestParts(t *testing.T) {
 	}
 }
 
+// TestVars: of each node of a program, in whatever order they stand.
+func TestVars(t *testing.T) {
+	p := list(
+		num(1), vari(0), vari(5), api.Node{Kind: api.Num, N: 3, A: 1, B: 2, C: 2}, api.Node{Kind: api.Var, N: 2, A: 1, B: 2, C: 1},
+		pair(api.Add, 2, 1), api.Node{Kind: api.Less, N: 4, A: 4, B: 0, C: 2}, pair(api.Same, 5, 6), pair(api.Add, 3, 7), set(1, 8),
+	)
+	told(t, "a program", Check(p), api.OK)
+	before := slices.Clone(p)
+	for i, want := range []int{0, 1, 32, 0, 4, 33, 4, 37, 37} {
+		if got := Vars(p, i); got != want {
+			t.Errorf("variables in value %d: got %b, want %b", i, got, want)
+		}
+	}
+	if !slices.Equal(p, before) {
+		t.Error("the program was written into")
+	}
+}
+
 func TestWrite(t *testing.T) {
 	for _, c := range []struct {
 		p    []api.Node
